@@ -1,0 +1,45 @@
+// Package terms: what a search may be asked, in the order in which its faults are told: see DOC.md, chapter 9.
+package terms
+
+import (
+	"wayfare/api"
+	"wayfare/graph"
+)
+
+// Search tells what is wrong with what a search is asked.
+func Search(g api.Graph, kind int, starts []api.Start) api.Errno {
+	if e := Graph(g, kind); e != api.OK {
+		return e
+	}
+	for _, s := range starts {
+		switch {
+		case !IsVertex(g, s.Vertex):
+			return api.ErrVertex
+		case s.Label > api.MaxLabel:
+			return api.ErrLabel
+		}
+	}
+	return api.OK
+}
+
+// Graph tells what is wrong with a graph, then with a kind.
+func Graph(g api.Graph, kind int) api.Errno {
+	if e, _ := graph.Check(g); e != api.OK {
+		return e
+	}
+	return Kind(kind)
+}
+
+// Kind tells whether there is such a kind of searches.
+func Kind(kind int) api.Errno {
+	switch kind {
+	case api.KindSum, api.KindHops, api.KindMax, api.KindLabel:
+		return api.OK
+	}
+	return api.ErrKind
+}
+
+// IsVertex tells whether a graph has a vertex.
+func IsVertex(g api.Graph, v int) bool {
+	return v >= 0 && v < g.N
+}
