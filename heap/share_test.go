@@ -162,7 +162,7 @@ func TestNoListsBeyondTheLimits(t *testing.T) {
 	heap.Valid(small, cells)
 	o.Hold(cells)
 	runtime.ReadMemStats(&behind)
-	if n := behind.TotalAlloc - ahead.TotalAlloc; n > 1<<15 {
+	if n := behind.TotalAlloc - ahead.TotalAlloc; n > 1<<16 {
 		t.Errorf("P0.9: %d bytes are taken", n)
 	}
 }

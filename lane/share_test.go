@@ -136,7 +136,7 @@ func TestNoListsBeyondTheLimits(t *testing.T) {
 	lane.Pop(small, 0, math.MaxInt)
 	lane.Items(small, []uint64{0, 0, never, 1, 1, 2, 2})
 	runtime.ReadMemStats(&behind)
-	if n := behind.TotalAlloc - ahead.TotalAlloc; n > 1<<15 {
+	if n := behind.TotalAlloc - ahead.TotalAlloc; n > 1<<16 {
 		t.Errorf("P0.9: %d bytes are taken", n)
 	}
 }
