@@ -21,7 +21,7 @@ type reached struct {
 
 // search is Search of what was looked over already.
 func search(g api.Graph, kind int, starts []api.Start) []uint64 {
-	labels := started(g.N, starts)
+	labels := terms.Started(g.N, starts)
 	waiting := queue[reached]{ahead: func(a, b reached) bool { return a.label < b.label }}
 	wait := func(v int) { waiting.push(reached{labels[v], v}) }
 	for v, label := range labels {
@@ -49,7 +49,7 @@ func Rounds(g api.Graph, kind int, starts []api.Start) ([]uint64, int, api.Errno
 	if e := terms.Search(g, kind, starts); e != api.OK {
 		return nil, 0, e
 	}
-	labels := started(g.N, starts)
+	labels := terms.Started(g.N, starts)
 	waiting := queue[visit]{ahead: func(a, b visit) bool {
 		return a.round < b.round || a.round == b.round && a.vertex < b.vertex
 	}}
@@ -79,18 +79,6 @@ func Rounds(g api.Graph, kind int, starts []api.Start) ([]uint64, int, api.Errno
 		})
 	}
 	return labels, changed + 1, api.OK
-}
-
-// started are the least labels of the starts at each vertex.
-func started(n int, starts []api.Start) []uint64 {
-	labels := make([]uint64, n)
-	for v := range labels {
-		labels[v] = api.Never
-	}
-	for _, s := range starts {
-		labels[s.Vertex] = min(labels[s.Vertex], s.Label)
-	}
-	return labels
 }
 
 // spread carries the label of u along its edges, and tells each vertex whose label that lowers.

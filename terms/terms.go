@@ -43,3 +43,15 @@ func Kind(kind int) api.Errno {
 func IsVertex(g api.Graph, v int) bool {
 	return v >= 0 && v < g.N
 }
+
+// Started are the labels at the beginning of a search of n vertices: at each the least one of its starts, which were looked over already.
+func Started(n int, starts []api.Start) []uint64 {
+	labels := make([]uint64, n)
+	for v := range labels {
+		labels[v] = api.Never
+	}
+	for _, s := range starts {
+		labels[s.Vertex] = min(labels[s.Vertex], s.Label)
+	}
+	return labels
+}

@@ -2,6 +2,7 @@ package terms_test
 
 import (
 	"math"
+	"slices"
 	"testing"
 
 	"wayfare/api"
@@ -48,6 +49,22 @@ func TestFaultsInTheirOrder(t *testing.T) {
 	} {
 		if e := terms.Search(c.g, c.kind, c.starts); e != c.want {
 			t.Errorf("chapter 9, errors in their order: %d: %d, want %d", i, e, c.want)
+		}
+	}
+}
+
+func TestStarted(t *testing.T) {
+	for i, c := range []struct {
+		n      int
+		starts []api.Start
+		want   []uint64
+	}{
+		{0, nil, nil},
+		{2, nil, []uint64{api.Never, api.Never}},
+		{3, []api.Start{start(2, 5), start(0, api.MaxLabel), start(2, 4), start(2, 6)}, []uint64{api.MaxLabel, api.Never, 4}},
+	} {
+		if l := terms.Started(c.n, c.starts); !slices.Equal(l, c.want) {
+			t.Errorf("chapter 9, at the start: %d: %v, want %v", i, l, c.want)
 		}
 	}
 }
