@@ -2,6 +2,7 @@ package route
 
 import (
 	"wayfare/api"
+	"wayfare/queue"
 	"wayfare/terms"
 )
 
@@ -22,15 +23,15 @@ type reached struct {
 // search is Search of what was looked over already.
 func search(g api.Graph, kind int, starts []api.Start) []uint64 {
 	labels := terms.Started(g.N, starts)
-	waiting := queue[reached]{ahead: func(a, b reached) bool { return a.label < b.label }}
-	wait := func(v int) { waiting.push(reached{labels[v], v}) }
+	waiting := queue.New(func(a, b reached) bool { return a.label < b.label })
+	wait := func(v int) { waiting.Push(reached{labels[v], v}) }
 	for v, label := range labels {
 		if label != api.Never {
 			wait(v)
 		}
 	}
-	for !waiting.empty() {
-		if at := waiting.pop(); at.label == labels[at.vertex] { // else it was lowered since, and waits once more
+	for !waiting.Empty() {
+		if at := waiting.Pop(); at.label == labels[at.vertex] { // else it was lowered since, and waits once more
 			spread(g, kind, labels, at.vertex, wait)
 		}
 	}
@@ -50,14 +51,14 @@ func Rounds(g api.Graph, kind int, starts []api.Start) ([]uint64, int, api.Errno
 		return nil, 0, e
 	}
 	labels := terms.Started(g.N, starts)
-	waiting := queue[visit]{ahead: func(a, b visit) bool {
+	waiting := queue.New(func(a, b visit) bool {
 		return a.round < b.round || a.round == b.round && a.vertex < b.vertex
-	}}
+	})
 	waits := make([]bool, g.N)
 	wait := func(round, v int) {
 		if !waits[v] { // once is enough: whoever lowers it, its row comes next in the same round
 			waits[v] = true
-			waiting.push(visit{round, v})
+			waiting.Push(visit{round, v})
 		}
 	}
 	for v, label := range labels {
@@ -66,8 +67,8 @@ func Rounds(g api.Graph, kind int, starts []api.Start) ([]uint64, int, api.Errno
 		}
 	}
 	changed := 0 // the last round that changed a label
-	for !waiting.empty() {
-		at := waiting.pop()
+	for !waiting.Empty() {
+		at := waiting.Pop()
 		waits[at.vertex] = false
 		spread(g, kind, labels, at.vertex, func(v int) {
 			changed = at.round

@@ -39,6 +39,23 @@ func Kind(kind int) api.Errno {
 	return api.ErrKind
 }
 
+// WayKind tells whether a search from one vertex to another may be of a kind: one whose label is the same whichever end it is reckoned from.
+func WayKind(kind int) api.Errno {
+	switch kind {
+	case api.KindSum, api.KindHops, api.KindMax:
+		return api.OK
+	}
+	return api.ErrKind
+}
+
+// Join tells what the labels of two pieces of a way come to together, of a kind that WayKind takes; both are labels of searches, so that no sum wraps.
+func Join(kind int, a, b uint64) uint64 {
+	if kind == api.KindMax {
+		return max(a, b)
+	}
+	return a + b
+}
+
 // IsVertex tells whether a graph has a vertex.
 func IsVertex(g api.Graph, v int) bool {
 	return v >= 0 && v < g.N

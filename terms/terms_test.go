@@ -68,3 +68,32 @@ func TestStarted(t *testing.T) {
 		}
 	}
 }
+
+func TestWayKind(t *testing.T) {
+	for kind, want := range map[int]api.Errno{
+		api.KindSum: api.OK, api.KindHops: api.OK, api.KindMax: api.OK,
+		api.KindLabel: api.ErrKind, 0: api.ErrKind, 5: api.ErrKind, -1: api.ErrKind, math.MaxInt: api.ErrKind, math.MinInt: api.ErrKind,
+	} {
+		if e := terms.WayKind(kind); e != want {
+			t.Errorf("chapter 22, errors in their order: kind %d: %d, want %d", kind, e, want)
+		}
+	}
+}
+
+func TestJoin(t *testing.T) {
+	for _, c := range []struct {
+		kind       int
+		a, b, want uint64
+	}{
+		{api.KindSum, 3, 4, 7},
+		{api.KindHops, 3, 4, 7},
+		{api.KindMax, 3, 4, 4},
+		{api.KindMax, 4, 3, 4},
+		{api.KindSum, 1 << 61, 1 << 61, api.MaxLabel},
+		{api.KindMax, 0, 0, 0},
+	} {
+		if x := terms.Join(c.kind, c.a, c.b); x != c.want {
+			t.Errorf("chapter 23, joined: kind %d: %d, want %d", c.kind, x, c.want)
+		}
+	}
+}
