@@ -19,7 +19,7 @@ const (
 	mostLines = 60
 	library   = " bytes cmp container/heap errors iter maps math math/big math/bits slices sort strconv strings sync sync/atomic unicode unicode/utf8 "
 	syncNames = " Mutex RWMutex WaitGroup Once "
-	startUp   = " octet.sums " // variables of which the document asks that a call makes them
+	startUp   = " octet.sums job.commands " // variables of which the document asks that a call makes them, or init fills them
 )
 
 type file struct {
@@ -130,6 +130,17 @@ func TestPackageVariables(t *testing.T) {
 						t.Errorf("%s: %s is no table that is written out", f.name, full)
 					}
 				}
+			}
+		}
+	}
+}
+
+// TestStartUpFunctions: func init stands only where the document asks for it.
+func TestStartUpFunctions(t *testing.T) {
+	for _, f := range programFiles(t) {
+		for _, d := range f.tree.Decls {
+			if x, ok := d.(*ast.FuncDecl); ok && x.Recv == nil && x.Name.Name == "init" && f.tree.Name.Name != "job" {
+				t.Errorf("%s has a func init", f.name)
 			}
 		}
 	}
